@@ -222,7 +222,7 @@ func TestMachineAndLastWrittenOut(t *testing.T) {
 	}
 }
 
-// 11.1: of numbers that are no operation there is no name, and all is false.
+// 11.1: of numbers that are no operation there is no name, and Is, Machine and Last are false.
 func TestNoOperation(t *testing.T) {
 	for _, op := range none() {
 		if Is(op) {
@@ -528,6 +528,8 @@ func TestTakesWrittenOut(t *testing.T) {
 		{api.OpSpill, -1, " s"}, {api.OpSpill, 0, " p"}, {api.OpSpill, 1, " "},
 		{api.OpReload, -1, " p"}, {api.OpReload, 0, " s"}, {api.OpReload, 1, " "},
 		{api.OpSwap, -1, "n n"}, {api.OpSwap, 0, " ps"}, {api.OpSwap, 1, " ps"}, {api.OpSwap, 2, " "},
+		{0, -1, "n n"}, {0, 0, " "}, {0, -2, " "}, {28, -1, "n n"}, {28, 0, " "}, {-1, -1, "n n"}, {-1, 0, " "},
+		{least, -1, "n n"}, {least, 0, " "}, {greatest, -1, "n n"}, {greatest, 0, " "},
 	} {
 		got := ""
 		for _, machine := range []bool{false, true} {
@@ -541,13 +543,15 @@ func TestTakesWrittenOut(t *testing.T) {
 			}
 		}
 		if got != c.want {
-			t.Errorf("the place %d of %s may have %q; want %q", c.i, Name(c.op), got, c.want)
+			t.Errorf("the place %d of %d (%s) may have %q; want %q", c.i, c.op, Name(c.op), got, c.want)
 		}
 	}
 }
 
-// 11.2: numbers that are no operation have no classes, and take nothing, at any place.
+// 11.2: numbers that are no operation have no classes, and take nothing, at any place; nothing, which is None, may stand
+// where something would be given, for there the table has nothing.
 func TestNoOperationTakesNothing(t *testing.T) {
+	kinds := append([]int{0, 1, 2, 3, 4}, farKinds()...)
 	for _, op := range none() {
 		for _, i := range places() {
 			if got := Classes(op, i); len(got) != 0 {
@@ -558,9 +562,10 @@ func TestNoOperationTakesNothing(t *testing.T) {
 					t.Errorf("Fits(%d, %d, %d)", op, i, class)
 				}
 			}
-			for kind := -1; kind <= 5; kind++ {
-				if Takes(op, i, kind, false) || Takes(op, i, kind, true) {
-					t.Errorf("Takes(%d, %d, %d)", op, i, kind)
+			for _, kind := range kinds {
+				want := i == -1 && kind == 0
+				if Takes(op, i, kind, false) != want || Takes(op, i, kind, true) != want {
+					t.Errorf("Takes(%d, %d, %d) = %t, in machine code %t; want %t", op, i, kind, Takes(op, i, kind, false), Takes(op, i, kind, true), want)
 				}
 			}
 		}
@@ -582,7 +587,7 @@ func TestCallsAgree(t *testing.T) {
 			if something != is {
 				t.Errorf("the place %d of %q may have something: %t; want %t", i, Name(op), something, is)
 			}
-			if nothing := Takes(op, i, api.None, true); nothing != (i == -1 && Is(op) && !must) || nothing != Takes(op, i, api.None, false) {
+			if nothing := Takes(op, i, api.None, true); nothing != (i == -1 && !must) || nothing != Takes(op, i, api.None, false) {
 				t.Errorf("the place %d of %q may have nothing: %t", i, Name(op), nothing)
 			}
 			classes := len(Classes(op, i)) > 0
